@@ -86,7 +86,7 @@ func TestStatementsOfNoKind(t *testing.T) {
 
 func TestStatementsWithoutWhatTheyNeed(t *testing.T) {
 	one, two := exprs(number(1)), exprs(column("a"), column("b"))
-	three := append(slices.Clone(two), number(1))
+	three := append(slices.Clone(two), column("c"))
 	for _, st := range []api.Stmt{
 		{Kind: api.StTable, Name: "t"},
 		{Kind: api.StTable, Name: "t", Cols: []api.Col{{Name: "k"}}},
@@ -101,6 +101,10 @@ func TestStatementsWithoutWhatTheyNeed(t *testing.T) {
 		{Kind: api.StSelect, Table: "t", Order: two},
 		{Kind: api.StSelect, Table: "t", Order: two, Desc: true},
 		{Kind: api.StSelect, Table: "t", Desc: true},
+		{Kind: api.StSelect, Table: "t", Order: one},
+		{Kind: api.StSelect, Table: "t", Order: one, Desc: true},
+		{Kind: api.StSelect, Table: "t", Join: "u", On: exprs(column("a"), number(1))},
+		{Kind: api.StSelect, Table: "t", Join: "u", On: exprs(text("a"), column("b"))},
 		{Kind: api.StSelect, Table: "t", Join: "u"},
 		{Kind: api.StSelect, Table: "t", Join: "u", On: one},
 		{Kind: api.StSelect, Table: "t", Join: "u", On: three},

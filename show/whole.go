@@ -39,14 +39,18 @@ func wholeJoin(st api.Stmt) bool {
 	if st.Join == "" {
 		return len(st.On) == 0
 	}
-	return len(st.On) == 2
+	return len(st.On) == 2 && all(st.On, isColumn)
 }
 
 func wholeOrder(st api.Stmt) bool {
-	if st.Desc {
-		return len(st.Order) == 1
+	if len(st.Order) == 0 {
+		return !st.Desc
 	}
-	return len(st.Order) <= 1
+	return len(st.Order) == 1 && all(st.Order, isColumn)
+}
+
+func isColumn(e api.Expr) bool {
+	return e.Op == api.ExCol
 }
 
 func isQuery(st api.Stmt) bool {
